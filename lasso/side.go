@@ -1,7 +1,7 @@
 package lasso
 
 // Points stand here as numbers of two whole floats. No number that comes of
-// points reaches 2^53, not the sum of all products that a shape has: so all of
+// points reaches 2^53, not even the sum of all products that a shape has: so all of
 // them are exact.
 
 // number is the point as a number.
